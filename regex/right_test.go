@@ -56,6 +56,48 @@ func TestRightFormsByHand(t *testing.T) {
 	}
 }
 
+// twoSets are trees in which two ReSets stand side by side, though layer 2 has no set for both together.
+func twoSets() []api.Regex {
+	wide := func(from rune, n int) api.Regex { // ranges of five runes, with one between
+		r := set()
+		for i := range rune(n) {
+			r.Set = append(r.Set, span(from+6*i, from+6*i+4))
+		}
+		return r
+	}
+	odd := func(from rune, n int) api.Regex { // every fourth rune
+		r := set()
+		for i := range rune(n) {
+			r.Set = append(r.Set, span(from+4*i, from+4*i))
+		}
+		return r
+	}
+	l := []api.Regex{
+		alt(odd(0, 1025), odd(2, 1025)), alt(reEmpty, odd(0, 1025), odd(2, 1025)), alt(odd(0, 1025), odd(2, 1025), star(one('a'))),
+		alt(odd(0, 1024), odd(2, 1025)), alt(odd(0, 2040), one(2)), alt(odd(0, 700), odd(2, 700), odd(8002, 700)), // as one 2049, 2041 and 2100
+		and(wide(0, 1025), wide(3, 1025)), and(reEmpty, wide(0, 1025), wide(3, 1025)), and(wide(0, 1025), wide(3, 1025), not(one('a'))),
+	}
+	for _, r := range slices.Clone(l) {
+		l = append(l, not(r), star(r), cat(one('a'), r), cat(r, one('a')), alt(reEmpty, not(r)), and(reEmpty, star(r)), star(not(cat(r, one('a')))))
+	}
+	return l
+}
+
+func TestTwoSetsAreNotRight(t *testing.T) {
+	for i, r := range twoSets() {
+		if regex.Right(r) || isRight(r) || partsOf(r) > 4096 {
+			t.Error(i, regex.Right(r), isRight(r), partsOf(r))
+		}
+	}
+	for i, r := range []api.Regex{twoSets()[0], twoSets()[6]} { // it may be, but layer 2 refuses what would come
+		n, e := regex.Normal(r)
+		refused(t, "Normal", n, e, api.ErrRanges)
+		together := []func(...api.Regex) (api.Regex, api.Errno){regex.Alt, regex.And}[i]
+		n, e = together(r.Kids...)
+		refused(t, "made", n, e, api.ErrRanges)
+	}
+}
+
 // wrongForms are trees that may not be.
 func wrongForms() []api.Regex {
 	a := one('a')
@@ -224,6 +266,7 @@ func askAll(r api.Regex) []api.Errno {
 func TestWhatIsNotRightIsRefused(t *testing.T) {
 	a := one('a')
 	wrong := append(wrongForms(), set(), cat(a), cat(a, reEmpty), alt(a, a), and(a, reAll), not(not(a)), star(reNone), star(cat(a, cat(a, a))))
+	wrong = append(wrong, twoSets()...)
 	for _, r := range wrong {
 		for i, e := range askAll(r) {
 			if e != api.ErrRegex {

@@ -22,7 +22,7 @@ func (p *pool) take(l ...api.Regex) (all []int, right bool) {
 	return all, true
 }
 
-// load makes an expression that may be; it tells whether that was right: just then making it, the innermost first, leaves it as it is.
+// load makes an expression that may be; it tells whether that was right: just then making it, the innermost first, leaves it as it is, and nothing goes wrong with it (of sets that layer 2 can't put together, making leaves two).
 func (p *pool) load(r api.Regex) (x int, right bool) {
 	kids := make([]int, len(r.Kids))
 	right = true
@@ -32,7 +32,7 @@ func (p *pool) load(r api.Regex) (x int, right bool) {
 		right = right && kidRight
 	}
 	x = p.madeOf(r.Kind, r.Set, kids)
-	return x, right && p.nodes[x].kind == r.Kind && slices.Equal(p.kids(x), kids)
+	return x, right && p.e == api.OK && p.nodes[x].kind == r.Kind && slices.Equal(p.kids(x), kids)
 }
 
 // mayBe tells whether something can be made of an expression.
