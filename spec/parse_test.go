@@ -274,10 +274,6 @@ func TestExpressions(t *testing.T) {
 			}
 			refused(t, ahead+c.s, c.why, at+c.at)
 		}
-		refused(t, ahead, api.ErrArg, 0) // what layer 4 tells where no byte stands
-		if strings.HasSuffix(ahead, "=") {
-			refused(t, ahead+" \n// ;", api.ErrArg, 0)
-		}
 	}
 	for s, l := range map[string]api.LexLine{
 		"token A=\"a\"pop;":             {Name: "A", Pop: true},
@@ -291,6 +287,20 @@ func TestExpressions(t *testing.T) {
 		if m := parsed(t, "module M;"+s); told(m.Lex, false) != told([]api.LexLine{l}, false) {
 			t.Error(s, m.Lex)
 		}
+	}
+}
+
+// Q1: where an expression must stand, the end is as wrong as a byte that can't stand there: gaps are passed by.
+func TestNoExpression(t *testing.T) {
+	for _, ahead := range []string{"module M;token t=", "module M; token t =", "module M;skip=", "module M; mode in; skip =", "module M; token A = \"a\"; rule r = A; token B ="} {
+		for _, gap := range []string{"", " ", "\t\r\n", "//", "// \"a\"", " // ;\n", "\n//\n// =\r\n "} {
+			refused(t, ahead+gap, api.ErrForm, len(ahead+gap))
+			refused(t, ahead+gap+"\n;", api.ErrForm, len(ahead+gap)+1)
+			refused(t, ahead+gap+"\n\"a\"", api.ErrSpec, len(ahead+gap)+4)
+		}
+	}
+	for _, s := range []string{"module M; token t", "module M; skip", "module M; token t ", "module M; skip // ="} {
+		refused(t, s, api.ErrSpec, len(s)) // no expression must stand there yet
 	}
 }
 

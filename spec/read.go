@@ -147,7 +147,11 @@ func (r *reader) expression() api.Regex {
 	if !r.sees("=") {
 		r.giveUp(api.ErrSpec)
 	}
-	re, end, f := regex.From(r.text, behindGaps(r.text, r.next.end))
+	at := behindGaps(r.text, r.next.end)
+	if at == len(r.text) { // From begins at a byte alone, and takes the end for a wrong number
+		panic(api.Fault{Why: api.ErrForm, At: at})
+	}
+	re, end, f := regex.From(r.text, at)
 	if f != (api.Fault{}) {
 		panic(f)
 	}

@@ -297,6 +297,9 @@ func (g *goer) name(name string, p *part) {
 // expression goes over what layer 4 reads.
 func (g *goer) expression(p *part) {
 	at := gap(g.text, g.at)
+	if at == len(g.text) {
+		panic(api.Fault{Why: api.ErrForm, At: at}) // R6: at a byte that can't stand there, the end too
+	}
 	re, end, f := regex.From(g.text, at)
 	if f != (api.Fault{}) {
 		panic(f)
