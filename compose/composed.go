@@ -4,6 +4,7 @@ import (
 	"slices"
 
 	"quoin/api"
+	"quoin/copies"
 )
 
 // composed is what comes.
@@ -11,9 +12,9 @@ func (u *union) composed() api.Spec {
 	first := u.modules[0]
 	made := api.Spec{Name: first.Name}
 	for _, s := range u.modules {
-		made.Lex = append(made.Lex, each(s.Lex, copyLexLine)...)
-		made.Precs = append(made.Precs, each(s.Precs, copyPrecLine)...)
-		made.Datas = append(made.Datas, each(s.Datas, copyDataLine)...)
+		made.Lex = append(made.Lex, copies.Each(s.Lex, copies.LexLine)...)
+		made.Precs = append(made.Precs, copies.Each(s.Precs, copies.PrecLine)...)
+		made.Datas = append(made.Datas, copies.Each(s.Datas, copies.DataLine)...)
 	}
 	for number := range u.parts {
 		made.Rules = append(made.Rules, u.ruleLine(number))
@@ -35,7 +36,7 @@ func (u *union) ruleLine(number int) api.RuleLine {
 	for _, r := range parts {
 		line := u.line(r)
 		w := writer{in: u, module: r.module, params: line.Params, now: made.Params}
-		made.Alts = append(made.Alts, each(line.Alts, w.alt)...)
+		made.Alts = append(made.Alts, copies.Each(line.Alts, w.alt)...)
 	}
 	return made
 }
@@ -49,14 +50,14 @@ type writer struct {
 }
 
 func (w writer) alt(a api.Alt) api.Alt {
-	a.Syms = each(a.Syms, w.ref)
-	a.Act = copyAct(a.Act)
+	a.Syms = copies.Each(a.Syms, w.ref)
+	a.Act = copies.Act(a.Act)
 	return a
 }
 
 func (w writer) ref(r api.Ref) api.Ref {
 	r.Name = w.word(r.Name)
-	r.Args = each(r.Args, w.ref)
+	r.Args = copies.Each(r.Args, w.ref)
 	return r
 }
 
