@@ -192,3 +192,19 @@ func TestKinds(t *testing.T) {
 		t.Error(expand.Kinds(s), g.Kinds)
 	}
 }
+
+// As many kinds as a module may have, and one more, which is no module's: so more than MaxKinds never come.
+func TestManyKinds(t *testing.T) {
+	s := api.Spec{Name: "M", Rules: []api.RuleLine{{Name: "s", Alts: []api.Alt{{Syms: []api.Ref{{Name: "K255"}, {Name: "s"}}}}}}}
+	for i := range 256 {
+		s.Lex = append(s.Lex, api.LexLine{Mode: "main", Name: "K" + strconv.Itoa(i), Re: api.Regex{Kind: api.ReEmpty}})
+	}
+	g, _, d := likeWords(t, s, "s")
+	if len(d) > 0 || len(g.Kinds) != 258 || len(g.Precs) != 258 || !slices.Equal(g.Prods[0].Right, []int{257, 258}) {
+		t.Error(g, d)
+	}
+	s.Lex = append(s.Lex, api.LexLine{Mode: "main", Name: "L", Re: api.Regex{Kind: api.ReEmpty}})
+	if _, _, d := likeWords(t, s, "s"); !slices.Equal(d, []api.Diag{{Module: "M", Why: api.ErrArg}}) {
+		t.Error(d)
+	}
+}
