@@ -33,7 +33,7 @@ func walk(g api.Plain, symbol int, d api.Deriv, look func(symbol int, d *api.Der
 		if k.depth > api.MaxChart || !fits(g, k.symbol, k.tree) || !look(k.symbol, k.tree) {
 			return false
 		}
-		if k.tree.Prod == leaf {
+		if isLeaf(k.tree) {
 			continue
 		}
 		for i, symbol := range slices.Backward(g.Prods[k.tree.Prod].Right) {
@@ -43,10 +43,13 @@ func walk(g api.Plain, symbol int, d api.Deriv, look func(symbol int, d *api.Der
 	return true
 }
 
-// fits tells whether a tree may stand for a symbol, its kids aside.
+// isLeaf tells whether a tree is a token. Its kids count: what has some is no leaf, whatever they are, and so no tree at all.
+func isLeaf(d *api.Deriv) bool { return d.Prod == leaf && len(d.Kids) == 0 }
+
+// fits tells whether a tree may stand for a symbol, what stands for its kids aside.
 func fits(g api.Plain, symbol int, d *api.Deriv) bool {
 	if symbol < len(g.Kinds) {
-		return d.Prod == leaf
+		return isLeaf(d)
 	}
 	return isProd(g, d.Prod) && g.Prods[d.Prod].Left == symbol-len(g.Kinds) && len(d.Kids) == len(g.Prods[d.Prod].Right)
 }
@@ -57,11 +60,11 @@ func isProd(g api.Plain, n int) bool { return 0 <= n && n < len(g.Prods) }
 func derivesRow(g api.Plain, d api.Deriv, row []int) bool {
 	tok := 0
 	is := walk(g, len(g.Kinds)+g.Start, d, func(symbol int, d *api.Deriv) bool {
-		if d.Prod != leaf {
+		if !isLeaf(d) {
 			return d.Tok == 0
 		}
 		tok++
-		return d.Tok == tok-1 && tok <= len(row) && row[tok-1] == symbol && len(d.Kids) == 0
+		return d.Tok == tok-1 && tok <= len(row) && row[tok-1] == symbol
 	})
 	return is && tok == len(row)
 }
@@ -73,7 +76,7 @@ func yield(g api.Plain, d api.Deriv) []int {
 	}
 	var row []int
 	is := walk(g, len(g.Kinds)+g.Prods[d.Prod].Left, d, func(symbol int, d *api.Deriv) bool {
-		if d.Prod == leaf {
+		if isLeaf(d) {
 			row = append(row, symbol)
 		}
 		return true

@@ -88,20 +88,12 @@ func TestWrongProductions(t *testing.T) {
 		holdTrees(t, g, []treeCase{
 			{"inside", node(0, node(prod, leaf(0)), leaf(1), node(2)), []int{2, 3}, false, nil},
 			{"inside, without kids", node(0, node(1, leaf(0)), leaf(1), node(prod)), []int{2, 3}, false, nil},
-			{"within a leaf's place", node(0, node(1, node(prod, leaf(0))), leaf(1), node(2)), []int{2, 3}, false, yieldIf(prod == -1, 2, 3)},
+			{"within a leaf's place", node(0, node(1, node(prod, leaf(0))), leaf(1), node(2)), []int{2, 3}, false, nil},
 		})
 	}
 	for _, prod := range []int{math.MinInt, -2, -1, 5, 6, 100, math.MaxInt} {
 		holdTrees(t, g, []treeCase{{"at the root", node(prod, node(1, leaf(0)), leaf(1), node(2)), []int{2, 3}, false, nil}})
 	}
-}
-
-// yieldIf: a leaf is one whatever stands in fields that it does not use.
-func yieldIf(is bool, row ...int) []int {
-	if is {
-		return row
-	}
-	return nil
 }
 
 func TestWrongKids(t *testing.T) {
@@ -141,14 +133,10 @@ func TestWrongPlaces(t *testing.T) {
 	holdTrees(t, treesGrammar(), l)
 }
 
-// Fields that are not used must be zero for Check; Yield reads productions alone.
+// A node's Tok must be zero for Check; for Yield, which reads productions alone, it means nothing.
 func TestUnusedFields(t *testing.T) {
 	with := func(d api.Deriv, tok int) api.Deriv {
 		d.Tok = tok
-		return d
-	}
-	kids := func(d api.Deriv, kids ...api.Deriv) api.Deriv {
-		d.Kids = kids
 		return d
 	}
 	row := []int{2, 3}
@@ -159,10 +147,65 @@ func TestUnusedFields(t *testing.T) {
 			treeCase{"inside", node(0, with(node(1, leaf(0)), tok), leaf(1), node(2)), row, false, row},
 			treeCase{"without kids", node(0, node(1, leaf(0)), leaf(1), with(node(2), tok)), row, false, row})
 	}
-	l = append(l,
-		treeCase{"a leaf with a leaf", node(0, node(1, kids(leaf(0), leaf(0))), leaf(1), node(2)), row, false, row},
-		treeCase{"a leaf with a node", node(0, node(1, leaf(0)), kids(leaf(1), node(2)), node(2)), row, false, row})
 	holdTrees(t, treesGrammar(), l)
+}
+
+// full is a leaf but for its kids: what has some is none.
+func full(tok int, kids ...api.Deriv) api.Deriv { return api.Deriv{Prod: -1, Tok: tok, Kids: kids} }
+
+func TestLeafWithKids(t *testing.T) {
+	row := []int{2, 3}
+	a, b, none := node(1, leaf(0)), leaf(1), node(2)
+	holdTrees(t, treesGrammar(), []treeCase{
+		{"a leaf with a leaf", node(0, node(1, full(0, leaf(0))), b, none), row, false, nil},
+		{"a leaf with a node", node(0, a, full(1, none), none), row, false, nil},
+		{"a leaf with the zero tree", node(0, a, full(1, api.Deriv{}), none), row, false, nil},
+		{"a leaf with what is none", node(0, a, full(1, node(100)), none), row, false, nil},
+		{"a leaf with many", node(0, a, full(1, leaf(1), none, leaf(1)), none), row, false, nil},
+		{"a leaf with a leaf that has one", node(0, a, full(1, full(1, leaf(1))), none), row, false, nil},
+		{"no leaf but kids at the root", full(0, a, b, none), row, false, nil},
+		{"a leaf with kids for a rule", node(0, full(0, leaf(0)), b, none), row, false, nil},
+		{"a leaf with no kids", node(0, node(1, full(0)), full(1), none), row, true, row},
+		{"a leaf with an empty list of kids", node(0, node(1, full(0, []api.Deriv{}...)), full(1, []api.Deriv{}...), none), row, true, row},
+		{"leaves with room for kids", node(0, a, full(1, make([]api.Deriv, 0, 3)...), none), row, true, row},
+	})
+	holdTrees(t, read("B =; B = error; a; b; c; d"), []treeCase{
+		{"the one leaf, with the zero tree", node(1, full(0, api.Deriv{})), []int{1}, false, nil},
+		{"the one leaf, with itself", node(1, full(0, leaf(0))), []int{1}, false, nil},
+		{"the one leaf", node(1, leaf(0)), []int{1}, true, []int{1}},
+	})
+}
+
+// Each leaf of a tree, one after the other, with kids of all sorts.
+func TestEachLeafWithKids(t *testing.T) {
+	m := newMaker(608)
+	often := 0
+	for range 3000 {
+		g := m.plain(1+m.Intn(4), 1+m.Intn(4), 1+m.Intn(4))
+		row, d, e := derive.Sentence(g, m.choices(6), 5)
+		if e != api.OK || len(row) > 20 {
+			continue
+		}
+		for _, one := range spots(&d) {
+			if one.Prod != -1 {
+				continue
+			}
+			for _, kids := range [][]api.Deriv{{{}}, {leaf(one.Tok)}, {node(len(g.Prods))}, {{}, leaf(0)}, {clone(d)}, {full(0, api.Deriv{})}} {
+				one.Kids = kids
+				if l := derive.Yield(g, d); len(l) > 0 || derive.Check(g, d, row...) {
+					t.Fatal(lines(g), row, told(d), l)
+				}
+				often++
+			}
+			one.Kids = []api.Deriv{}
+			if l := derive.Yield(g, d); !slices.Equal(l, row) || !derive.Check(g, d, row...) {
+				t.Fatal(lines(g), row, told(d), l)
+			}
+		}
+	}
+	if often < 5000 {
+		t.Error(often)
+	}
 }
 
 // Check has no limit of its own: a row that is too long for the others may be derived.

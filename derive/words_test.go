@@ -274,11 +274,13 @@ func wordLongest(g api.Plain, row []int) int {
 	return -1
 }
 
+// wordLeaf tells whether a tree is a leaf.
+func wordLeaf(d api.Deriv) bool { return d.Prod == -1 && len(d.Kids) == 0 }
+
 // wordCheck tells whether a tree stands for a symbol over the row from a place on, and where it ends.
 func wordCheck(g api.Plain, symbol int, d api.Deriv, row []int, from int) (int, bool) {
 	if wordRule(g, symbol) < 0 {
-		isLeaf := d.Prod == -1 && d.Tok == from && len(d.Kids) == 0
-		return from + 1, isLeaf && from < len(row) && row[from] == symbol
+		return from + 1, wordLeaf(d) && d.Tok == from && from < len(row) && row[from] == symbol
 	}
 	if d.Prod < 0 || d.Prod >= len(g.Prods) || d.Tok != 0 {
 		return 0, false
@@ -311,7 +313,7 @@ func wordYield(g api.Plain, d api.Deriv) ([]int, bool) {
 	for i, symbol := range g.Prods[d.Prod].Right {
 		k := d.Kids[i]
 		if wordRule(g, symbol) < 0 {
-			if k.Prod != -1 {
+			if !wordLeaf(k) {
 				return nil, false
 			}
 			row = append(row, symbol)
