@@ -5,21 +5,22 @@ import (
 	"slices"
 
 	"quoin/api"
+	"quoin/states"
 )
 
 // builder makes an automaton.
 type builder struct {
-	*closer
+	*states.Closer
 	api.Auto
 	met   map[string]int // the states' numbers by their kernels: these alone tell states apart, as all else is their closure
 	count int            // how many items all states have
 }
 
-func newBuilder(c *closer) *builder { return &builder{closer: c, met: map[string]int{}} }
+func newBuilder(c *states.Closer) *builder { return &builder{Closer: c, met: map[string]int{}} }
 
 // build makes all states, as they are met; ErrFull, ErrStates.
 func (b *builder) build() api.Errno {
-	if _, e := b.number([]api.Item{b.startItem()}); e != api.OK {
+	if _, e := b.number([]api.Item{b.StartItem()}); e != api.OK {
 		return e
 	}
 	for s := 0; s < len(b.States); s++ { // there come more and more of them
@@ -34,10 +35,10 @@ func (b *builder) build() api.Errno {
 
 // goOn is where a state goes by each symbol.
 func (b *builder) goOn(state []api.Item) ([]int, api.Errno) {
-	next := slices.Repeat([]int{nowhere}, b.symbols())
-	steps := b.steps(state)
-	for _, symbol := range slices.Sorted(maps.Keys(steps)) {
-		n, e := b.number(steps[symbol])
+	next := slices.Repeat([]int{nowhere}, b.Symbols())
+	kernels := steps(b.Grammar, state)
+	for _, symbol := range slices.Sorted(maps.Keys(kernels)) {
+		n, e := b.number(kernels[symbol])
 		if e != api.OK {
 			return nil, e
 		}
@@ -54,7 +55,7 @@ func (b *builder) number(kernel []api.Item) (int, api.Errno) {
 	if n, is := b.met[text]; is {
 		return n, api.OK
 	}
-	state, e := b.closure(kernel)
+	state, e := b.Closure(kernel)
 	if e != api.OK {
 		return 0, e
 	}

@@ -4,21 +4,22 @@ import (
 	"slices"
 
 	"quoin/api"
+	"quoin/states"
 )
 
 // hasShape tells whether states are rows of items that may be, and Next has a state or none for each of them and each symbol.
-func (g *grammar) hasShape(a api.Auto) bool {
-	return g.haveRoom(a.States) && haveStates(a) && len(a.Next[0]) == g.symbols() &&
-		!slices.ContainsFunc(a.States, func(state []api.Item) bool { return !g.haveItems(state) || !rises(state) })
+func hasShape(g *states.Grammar, a api.Auto) bool {
+	return haveRoom(a.States) && haveStates(a) && len(a.Next[0]) == g.Symbols() &&
+		!slices.ContainsFunc(a.States, func(state []api.Item) bool { return !g.HaveItems(state) || !rises(state) })
 }
 
 // haveRoom tells whether there are states, each with items, and not too many of all.
-func (g *grammar) haveRoom(states [][]api.Item) bool {
-	if len(states) == 0 || len(states) > api.MaxStates {
+func haveRoom(all [][]api.Item) bool {
+	if len(all) == 0 || len(all) > api.MaxStates {
 		return false
 	}
 	count := 0
-	for _, state := range states {
+	for _, state := range all {
 		if len(state) == 0 || len(state) > api.MaxItems {
 			return false
 		}
@@ -30,41 +31,29 @@ func (g *grammar) haveRoom(states [][]api.Item) bool {
 // rises tells whether items are in order, each once.
 func rises(state []api.Item) bool {
 	for n := 1; n < len(state); n++ {
-		if compare(state[n-1], state[n]) >= 0 {
+		if states.Compare(state[n-1], state[n]) >= 0 {
 			return false
 		}
 	}
 	return true
 }
 
-// spot is a production and a place in it: an item without its Look.
-type spot struct{ prod, dot int }
-
-// core are the spots of items, which are rising.
-func core(l []api.Item) []spot {
-	var spots []spot
-	for _, i := range l {
-		spots = append(spots, spot{i.Prod, i.Dot})
-	}
-	return slices.Compact(spots)
-}
-
 // leadsOn tells of an automaton that has the shape of one whether its states are closed, the first is the start's, and each leads where it goes on to.
-func (c *closer) leadsOn(a api.Auto) bool {
-	if !has(a.States[0], c.startItem()) {
+func leadsOn(c *states.Closer, a api.Auto) bool {
+	if !has(a.States[0], c.StartItem()) {
 		return false
 	}
-	var cores [][]spot
+	var cores [][]states.Spot
 	for _, state := range a.States {
-		if !c.isClosed(state) {
+		if !isClosed(c, state) {
 			return false
 		}
-		cores = append(cores, core(c.kernel(state)))
+		cores = append(cores, states.Core(c.Kernel(state)))
 	}
 	for s, state := range a.States {
-		steps := c.steps(state)
+		kernels := steps(c.Grammar, state)
 		for symbol, to := range a.Next[s] {
-			step := steps[symbol]
+			step := kernels[symbol]
 			if (to == nowhere) != (len(step) == 0) || to != nowhere && !fits(a.States[to], cores[to], step) {
 				return false
 			}
@@ -73,14 +62,14 @@ func (c *closer) leadsOn(a api.Auto) bool {
 	return true
 }
 
-func (c *closer) isClosed(state []api.Item) bool {
-	l, e := c.closure(state)
+func isClosed(c *states.Closer, state []api.Item) bool {
+	l, e := c.Closure(state)
 	return e == api.OK && len(l) == len(state)
 }
 
 // fits tells whether a closed state, which has that core, has items to which one goes on, and no other spots in its kernel.
-func fits(state []api.Item, spots []spot, step []api.Item) bool {
-	if !slices.Equal(spots, core(step)) {
+func fits(state []api.Item, spots []states.Spot, step []api.Item) bool {
+	if !slices.Equal(spots, states.Core(step)) {
 		return false
 	}
 	for _, i := range step {
@@ -92,6 +81,6 @@ func fits(state []api.Item, spots []spot, step []api.Item) bool {
 }
 
 func has(state []api.Item, i api.Item) bool {
-	_, is := slices.BinarySearchFunc(state, i, compare)
+	_, is := slices.BinarySearchFunc(state, i, states.Compare)
 	return is
 }
